@@ -94,6 +94,28 @@ func TestNothingButGo(t *testing.T) {
 	})
 }
 
+// Rule 3: a text that is written out isn't made runes.
+func TestNoTextsMadeRunes(t *testing.T) {
+	eachFile(t, func(path string, _ []byte, _ *token.FileSet, file *ast.File) {
+		ast.Inspect(file, func(n ast.Node) bool {
+			c, ok := n.(*ast.CallExpr)
+			if !ok || len(c.Args) != 1 {
+				return true
+			}
+			list, ok := c.Fun.(*ast.ArrayType)
+			if !ok {
+				return true
+			}
+			of, ok := list.Elt.(*ast.Ident)
+			text, is := c.Args[0].(*ast.BasicLit)
+			if ok && is && text.Kind == token.STRING && (of.Name == "rune" || of.Name == "int32") {
+				t.Error(path, "makes runes of", text.Value)
+			}
+			return true
+		})
+	})
+}
+
 // Rules 3a, 3b: what stands at package level: constants, errors and short tables whose values are written out.
 func TestPackageLevel(t *testing.T) {
 	eachFile(t, func(path string, _ []byte, _ *token.FileSet, file *ast.File) {
