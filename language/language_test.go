@@ -116,6 +116,32 @@ func TestNoTextsMadeRunes(t *testing.T) {
 	})
 }
 
+// Rule 3: what comes in to a function that others call is asked for its type by inner functions alone.
+func TestTypesAskedWithin(t *testing.T) {
+	eachFile(t, func(path string, _ []byte, _ *token.FileSet, file *ast.File) {
+		for _, d := range file.Decls {
+			f, ok := d.(*ast.FuncDecl)
+			if !ok || !f.Name.IsExported() || f.Body == nil {
+				continue
+			}
+			var comes []string
+			for _, x := range f.Type.Params.List {
+				for _, n := range x.Names {
+					comes = append(comes, n.Name)
+				}
+			}
+			ast.Inspect(f.Body, func(n ast.Node) bool {
+				if x, ok := n.(*ast.TypeAssertExpr); ok {
+					if of, ok := x.X.(*ast.Ident); ok && slices.Contains(comes, of.Name) {
+						t.Error(path, f.Name.Name, "asks", of.Name, "for its type")
+					}
+				}
+				return true
+			})
+		}
+	})
+}
+
 // Rules 3a, 3b: what stands at package level: constants, errors and short tables whose values are written out.
 func TestPackageLevel(t *testing.T) {
 	eachFile(t, func(path string, _ []byte, _ *token.FileSet, file *ast.File) {
