@@ -142,6 +142,56 @@ func TestTypesAskedWithin(t *testing.T) {
 	})
 }
 
+// Rule 3c: what is asked whether it is another interface is used as that only where it is.
+func TestInterfacesAskedWithin(t *testing.T) {
+	faces := map[string]bool{}
+	eachFile(t, func(_ string, _ []byte, _ *token.FileSet, file *ast.File) {
+		ast.Inspect(file, func(n ast.Node) bool {
+			if x, ok := n.(*ast.TypeSpec); ok {
+				if _, ok := x.Type.(*ast.InterfaceType); ok {
+					faces[x.Name.Name] = true
+				}
+			}
+			return true
+		})
+	})
+	eachFile(t, func(path string, _ []byte, _ *token.FileSet, file *ast.File) {
+		held := map[*ast.TypeAssertExpr]bool{}
+		ast.Inspect(file, func(n ast.Node) bool {
+			switch x := n.(type) {
+			case *ast.IfStmt:
+				held[askedIn(x)] = true
+			case *ast.TypeAssertExpr:
+				if x.Type != nil && faces[lastName(x.Type)] && !held[x] {
+					t.Error(path, "uses a", lastName(x.Type), "where it may be none")
+				}
+			}
+			return true
+		})
+	})
+}
+
+// askedIn: the assertion of an if of the form "if v, ok := x.(T); ok {}"; nil: it is of another one.
+func askedIn(x *ast.IfStmt) *ast.TypeAssertExpr {
+	set, ok := x.Init.(*ast.AssignStmt)
+	if !ok || len(set.Lhs) != 2 || len(set.Rhs) != 1 || x.Else != nil || lastName(x.Cond) == "" || lastName(x.Cond) != lastName(set.Lhs[1]) {
+		return nil
+	}
+	a, _ := set.Rhs[0].(*ast.TypeAssertExpr)
+	return a
+}
+
+// lastName: a name, its package's aside; "": it is none.
+func lastName(x ast.Expr) string {
+	switch x := x.(type) {
+	case *ast.Ident:
+		return x.Name
+	case *ast.SelectorExpr:
+		return x.Sel.Name
+	}
+	return ""
+}
+
 // Rules 3a, 3b: what stands at package level: constants, errors and short tables whose values are written out.
 func TestPackageLevel(t *testing.T) {
 	eachFile(t, func(path string, _ []byte, _ *token.FileSet, file *ast.File) {
